@@ -1,7 +1,7 @@
 package rules
 
 // landed is how many stages are built.
-const landed = 38
+const landed = 39
 
 // stage is a layer's package, the packages that it may call, and the ways of the language that it leans on.
 type stage struct {
