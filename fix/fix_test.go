@@ -237,6 +237,16 @@ func TestThinWithLeft(t *testing.T) { // 24.2, 24.3, 24.4
 	}
 }
 
+func TestThinOfTwo(t *testing.T) { // 24.2: a parent of two children
+	p := in(keys{20}, h(3), h(4))
+	a, b := of(h(4), 1), of(9, 21)
+	writes := plan.Merge(l, part(2, p), 0, part(3, a), part(4, b))
+	goes(t, "the first one", fix.New(l, spot(0, p, a), fix.Thin), fix.Over, h(4), 0, three, slices.Concat(thins(0, p, a, b), stores(writes))...)
+	p = in(keys{20}, h(4), h(3))
+	writes = plan.Merge(l, part(2, p), 0, part(4, a), part(3, b))
+	goes(t, "the last one", fix.New(l, spot(1, p, b), fix.Thin), fix.Over, h(3), 0, three, slices.Concat(thins(1, p, b, a), stores(writes))...)
+}
+
 func TestMisses(t *testing.T) { // 24.1, 24.4
 	for _, got := range []uint64{0, 2, math.MaxUint64} {
 		for kind := fix.Split; kind <= fix.Shrink; kind++ {
@@ -335,9 +345,9 @@ func TestCannotBegin(t *testing.T) {
 	for _, fresh := range [][]int{{7}, {7, 7}, {7, 0}, {7, 10}, {2, 7}, {7, 2}, {3, 7}, {7, 3}, {-1, 7}} {
 		goes(t, "no two fresh slots", fix.New(l, spot(0, p, leaf3), fix.Root, fresh...), fix.Restart, 0, 0, none)
 	}
-	for _, f := range []fix.Fix{fix.New(l, spot(0, p, leaf3), fix.Split, 7, 7, 0), fix.New(l, spot(0, p, leaf3), fix.Root, 7, 8, 8, -1), fix.New(l, spot(0, p, leaf3), fix.Thin, 0, 0)} {
+	for _, f := range []fix.Fix{fix.New(l, spot(0, p, leaf3), fix.Split, 7, 7, 0), fix.New(l, spot(0, p, leaf3), fix.Root, 7, 8, 8, -1), fix.New(l, spot(0, p, leaf3), fix.Thin, 0, 0), fix.New(l, spot(0, p, leaf3), fix.Split, 1), fix.New(l, spot(0, p, leaf3), fix.Root, 9, 1)} {
 		if f.Done() != 0 {
-			t.Error("slots that it does not need keep it from beginning")
+			t.Error("it does not begin")
 		}
 	}
 }

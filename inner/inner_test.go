@@ -64,7 +64,7 @@ func TestWrongNodes(t *testing.T) {
 		}
 	}
 	for _, n := range wrong {
-		nothing("Child", uint64(inner.Child(n, 9)), false)
+		nothing("Child", uint64(inner.Child(n, 9)), false, zero)
 		x, ok := inner.Add(n, 1, 50, 9)
 		nothing("Add", 0, ok, x)
 		x, ok = inner.Drop(n, 0)

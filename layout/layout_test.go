@@ -142,7 +142,7 @@ func TestShortForms(t *testing.T) { // 8.2
 }
 
 func TestShapes(t *testing.T) { // 8.4
-	for n, want := range map[int]uint64{0: 0, 1: 2, 4: 8, 64: 128, 255: 510, 256: 0, -1: 0, math.MinInt: 0, math.MaxInt: 0} {
+	for n, want := range map[int]uint64{0: 0, 1: 2, 4: 8, 64: 128, 255: 510, 256: 0, 257: 0, 300: 0, 511: 0, 517: 0, 1 << 32: 0, 1<<32 + 3: 0, -1: 0, math.MinInt: 0, math.MaxInt: 0} {
 		if got := layout.Pack(false, n); got != want || layout.Inner(got) {
 			t.Errorf("Pack(false, %d) = %d", n, got)
 		}

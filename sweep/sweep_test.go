@@ -236,7 +236,9 @@ func all(t *testing.T, m *memory.Memory, s sweep.Sweep) sweep.Sweep {
 
 func TestOverMemory(t *testing.T) { // 19.4
 	for seed := range uint64(200) {
-		m := memory.New(conf)
+		c := conf
+		c.Threads = 1 + int(seed%5)
+		m := memory.New(c)
 		x := sweep.Lists{}
 		r := seed*0x9e3779b97f4a7c15 + 1
 		next := func(n uint64) uint64 {
@@ -255,11 +257,11 @@ func TestOverMemory(t *testing.T) { // 19.4
 			}
 		}
 		var covers []uint64
-		for i := range 4 {
+		for i := range 2 * c.Threads {
 			covers = append(covers, h(int(next(10))))
-			m.Write(api.Write{At: 5 + i, Word: covers[i]})
+			m.Write(api.Write{At: m.Hazard(i/2, i%2), Word: covers[i]})
 		}
-		s := all(t, m, sweep.New(l, x))
+		s := all(t, m, sweep.New(m.Layout, x))
 		ripe, _ := limbo.Part(x.Limbo, 5)
 		_, want := limbo.Covered(append(slices.Clone(x.Kept), limbo.Handles(ripe)...), covers)
 		if !slices.Equal(s.Freed(), want) {

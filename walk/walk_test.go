@@ -234,10 +234,29 @@ func TestThin(t *testing.T) { // 20.3, 20.4
 			t.Errorf("of %d entries: %d, %v", n, o, ok)
 		}
 	}
+	// Its parent has two entries, which is enough.
+	two := []told{{load(l.Key(3, 0)), 20, nil}, {load(l.Value(3, 1)), h(5), nil}, {load(l.Version(3)), v(3), check(h(3))}, {load(l.Version(5)), v(5), begin(h(5), v(5))}, {load(l.Version(3)), v(3), check(h(3))}, {load(l.Shape(5)), innerOf(2), nil}}
+	below2 := goes(t, "a parent of two", walk.New(l, 0, walk.Thin, 30, false), append(first(innerOf(2)), two...)...)
+	comes(t, "a parent of two", below2, walk.Stop, walk.Spot{P: h(3), PV: v(3), PN: 2, I: 1, H: h(5), V: v(5), N: 2, Inner: true, Depth: 1})
+
 	// In the mode Read the parent may have one entry; in the mode Thin that one is stopped at, and gone on from.
 	w := goes(t, "one entry", walk.New(l, 0, walk.Thin, 30, false), first(innerOf(1))...)
 	steps := []told{{load(l.Value(3, 0)), h(5), nil}, {load(l.Version(3)), v(3), check(h(3))}, {load(l.Version(5)), v(5), begin(h(5), v(5))}, {load(l.Version(3)), v(3), check(h(3))}, {load(l.Shape(5)), innerOf(2), nil}, {load(l.Key(5, 0)), 40, nil}}
 	goes(t, "an only child is not thin", w.GoOn(), steps...)
+}
+
+func TestOnlyWhereItHasCome(t *testing.T) { // 20.4: GoOn, and Next, of a walk that is on its way are itself
+	w := goes(t, "full", walk.New(l, 0, walk.Grow, 30, false), first(innerOf(4))...).GoOn()
+	at := goes(t, "a leaf", walk.New(l, 0, walk.Read, 30, false), first(leafOf(2))...).Next(h(6))
+	for range 3 {
+		if w.GoOn() != w || w.Next(h(6)) != w {
+			t.Error("it goes on, that goes on already")
+		}
+		if at.Next(h(7)) != at || at.GoOn() != at {
+			t.Error("it goes to the next one, that goes there already")
+		}
+		w, at = w.Took(40), at.Took(v(6))
+	}
 }
 
 func TestNext(t *testing.T) { // 20.4, 20.3
