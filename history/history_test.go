@@ -80,12 +80,13 @@ func TestToldIsNew(t *testing.T) { // R3
 	h := []api.Event{invoke(1, 0, 0, scan), respond(1, 0, 1, scan, api.Result{Kind: api.Listed, Pairs: []api.Pair{{Key: 5}}})}
 	history.Calls(h)[0].Result.Pairs[0].Key = 77
 	history.Cut(h, 9)[1].Result.Pairs[0].Key = 77
-	for _, c := range history.All(h) {
-		c.Result.Pairs[0].Key = 77
-	}
-	for _, c := range history.All(h) {
-		if c.Result.Pairs[0].Key != 5 {
-			t.Error("All is not new")
+	all := history.All(h)
+	for range 2 {
+		for _, c := range all {
+			if c.Result.Pairs[0].Key != 5 {
+				t.Error("All is not new")
+			}
+			c.Result.Pairs[0].Key = 77
 		}
 	}
 	if h[1].Result.Pairs[0].Key != 5 {

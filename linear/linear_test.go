@@ -68,7 +68,7 @@ func TestErrors(t *testing.T) { // 31.2
 		{of(open)[:0], api.OK}, {[]api.Event{{Kind: api.Respond}}, api.ErrForm}, {of(many(12, open)...), api.OK}, {of(many(13, open)...), api.ErrBound}, {of(append(many(12, open), call{scan, nothing, 0, 5})...), api.OK},
 		{of(six...), api.OK}, {of(append(six, call{get(7), nothing, 0, -1})...), api.ErrBound}, {of(append(six, call{scan, nothing, 0, -1})...), api.OK}, {of(append(six, six...)...), api.OK}, {of(append(six, call{get(6), found(1), 0, 9})...), api.ErrNone},
 		{append(of(many(13, open)...), api.Event{}), api.ErrForm}, {of(append(many(13, open), call{get(1), found(5), 0, 9})...), api.ErrBound},
-		{of(call{get(1), found(5), 0, 9}), api.ErrNone}, {of(call{put(1, 5), nothing, 5, 9}, call{get(1), found(5), 0, 3}), api.ErrForm},
+		{of(call{get(1), found(5), 0, 9}), api.ErrNone}, {of(call{get(1), full, 0, 9}), api.ErrNone}, {of(call{del(1), full, 0, 9}), api.ErrNone}, {of(call{put(1, 5), nothing, 5, 9}, call{get(1), found(5), 0, 3}), api.ErrForm},
 		{of(call{get(1), found(5), 0, 3}, call{put(1, 5), nothing, 5, 9}), api.ErrNone}, {of(call{get(1), found(5), 0, 5}, call{put(1, 5), nothing, 5, 9}), api.OK},
 	} {
 		got, e := linear.Find(x.h)

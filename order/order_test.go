@@ -135,17 +135,19 @@ func TestEffects(t *testing.T) { // 30.3
 	effect := api.MarkEffect
 	h := []api.Event{
 		{Kind: api.Invoke, Thread: 0, Id: 1, At: 1, Op: get(1)}, {Kind: api.Invoke, Thread: 3, Id: 2, At: 2, Op: get(1)}, {Kind: api.Respond, Thread: 0, Id: 1, At: 3, Op: get(1)},
-		{Kind: api.Invoke, Thread: 0, Id: 3, At: 3, Op: scan}, {Kind: api.Respond, Thread: 0, Id: 3, At: 5, Op: scan}, {Kind: api.Invoke, Thread: 0, Id: 4, At: 7, Op: get(1)},
+		{Kind: api.Invoke, Thread: 0, Id: 3, At: 3, Op: scan}, {Kind: api.Respond, Thread: 0, Id: 3, At: 5, Op: scan},
+		{Kind: api.Invoke, Thread: 0, Id: 4, At: 5, Op: get(1)}, {Kind: api.Invoke, Thread: 5, Id: 5, At: 5, Op: get(1)}, {Kind: api.Respond, Thread: 5, Id: 5, At: 7, Op: get(1)},
 	}
 	for _, x := range []struct {
 		steps []api.Step
 		want  []int
 	}{
 		{nil, nil},
-		{[]api.Step{step(0, effect), step(0, effect), step(0, effect), step(0, effect), step(0, effect), step(0, effect), step(0, effect), step(0, effect), step(0, effect)}, []int{1, 1, 1, 3, 3, 4, 4}},
+		{[]api.Step{step(0, effect), step(0, effect), step(0, effect), step(0, effect), step(0, effect), step(0, effect), step(0, effect), step(0, effect), step(0, effect)}, []int{1, 1, 1, 3, 3, 4, 4, 4}},
 		{[]api.Step{step(3, effect), step(3, effect), step(3, effect), step(3), step(3, effect), step(9, effect), step(-1, effect)}, []int{2, 2}},
 		{[]api.Step{step(0), step(0, api.MarkCheck, effect, effect, api.MarkFree), step(3, api.MarkAgain), step(0, effect), step(0, effect, api.MarkAgain)}, []int{1, 1, 3}},
 		{[]api.Step{step(0, effect), step(1, effect)}, nil},
+		{[]api.Step{step(5), step(5), step(5), step(5), step(5, effect), step(5, effect), step(5, effect), step(5, effect), step(5, effect)}, []int{5, 5, 5}},
 	} {
 		if got := order.Effects(h, x.steps); !slices.Equal(got, x.want) {
 			t.Errorf("%v: %v, not %v", x.steps, got, x.want)

@@ -111,6 +111,9 @@ func TestCheck(t *testing.T) { // 32.2
 		{scan(0, 9, 2), 4, 14, []api.Pair{pair(1, 10)}, 3, api.ErrShort},
 		{scan(0, 4, 9), 4, 14, []api.Pair{pair(1, 10), pair(3, 30)}, 0, api.OK},
 		{scan(4, 6, 9), 4, 14, nil, 5, api.ErrShort},
+		{scan(5, 5, 9), 4, 14, nil, 5, api.ErrShort},
+		{scan(5, 9, 9), 4, 14, nil, 5, api.ErrShort},
+		{scan(4, 5, 9), 4, 14, nil, 5, api.ErrShort},
 		{scan(4, 6, 9), 4, 15, nil, 0, api.OK},
 		{scan(4, 6, 9), 16, 17, []api.Pair{pair(5, 50)}, 5, api.ErrState},
 		{scan(7, 7, 9), 4, 17, []api.Pair{pair(7, 70)}, 7, api.ErrState},
@@ -159,6 +162,10 @@ func TestNone(t *testing.T) { // 32.2, 32.3
 		}
 	}
 	if key, e := scans.Check(h, nil, 2); key != 0 || e != api.OK {
+		t.Error(key, e)
+	}
+	first := of(call{scan(0, 9, 9), listed(pair(3, 4)), 0, 4})
+	if key, e := scans.Check(first, nil, 1); key != 3 || e != api.ErrState {
 		t.Error(key, e)
 	}
 	if key, e := scans.Check(h[1:], nil, 2); key != 0 || e != api.ErrForm {
