@@ -77,9 +77,12 @@ var trees = []map[int]api.Node{
 
 // turn is what another thread does ahead of an access.
 type turn struct {
-	ahead int
-	write api.Write
+	ahead  int
+	writes [2]api.Write
 }
+
+// one is a turn of one word.
+func one(ahead int, w api.Write) turn { return turn{ahead, [2]api.Write{w, w}} }
 
 // state is how a task is behind an access.
 type state struct {
@@ -123,7 +126,7 @@ const most = 3000
 func (w *byWords) do(a api.Ask) uint64 {
 	w.close()
 	if len(w.asks) == w.by.ahead {
-		w.m.Write(w.by.write)
+		w.m.Write(w.by.writes[:]...)
 	}
 	w.asks = append(w.asks, a)
 	w.now.marks, w.now.held = nil, nil
@@ -286,7 +289,8 @@ func holds(t *testing.T, m *memory.Memory, o api.Op, x sweep.Lists, by turn) *by
 		given.Limbo[i] = api.Record{Handle: 99}
 	}
 	mine := m.Copy()
-	for i := 0; i < most; i++ {
+	i := 0
+	for ; i < most; i++ {
 		r, ok := y.Done()
 		if ok {
 			break
@@ -298,7 +302,7 @@ func holds(t *testing.T, m *memory.Memory, o api.Op, x sweep.Lists, by turn) *by
 			t.Fatalf("%v, %+v: access %d is %v, not %v", o, by, i, y.Want(), w.asks[min(i, len(w.asks)-1)])
 		}
 		if i == by.ahead {
-			mine.Write(by.write)
+			mine.Write(by.writes[:]...)
 		}
 		got := mine.Do(y.Want())
 		y.Took(got + 1) // it is a value: this one counts for nothing
@@ -306,6 +310,9 @@ func holds(t *testing.T, m *memory.Memory, o api.Op, x sweep.Lists, by turn) *by
 		if s := stateOf(y); !same(s, w.states[i]) {
 			t.Fatalf("%v, %+v: behind access %d it is %+v, not %+v", o, by, i, s, w.states[i])
 		}
+	}
+	if i != len(w.asks) {
+		t.Fatalf("%v, %+v: it has ended behind %d accesses, not %d", o, by, i, len(w.asks))
 	}
 	if len(w.asks) >= most {
 		return w
@@ -382,9 +389,9 @@ func TestDisturbed(t *testing.T) { // 26.3: others turn a word ahead of any acce
 				for slot := range 6 {
 					writes = append(writes, api.Write{At: m.Version(slot), Word: vword.Bump(m.Word(m.Version(slot)))})
 				}
-				writes = append(writes, api.Write{At: 2, Word: 0}, api.Write{At: m.Announce(1), Word: aword.Make(aword.Evicted, 9, 3)}, api.Write{At: m.Announce(0), Word: aword.Make(aword.Announced, 8, 97)}, api.Write{At: m.Announce(2), Word: aword.Make(aword.Announced, 8, 95)}, api.Write{At: 0, Word: 10})
+				writes = append(writes, api.Write{At: 2, Word: 0}, api.Write{At: m.Announce(1), Word: aword.Make(aword.Evicted, 9, 3)}, api.Write{At: m.Announce(0), Word: aword.Make(aword.Announced, 8, 97)}, api.Write{At: m.Announce(0), Word: aword.Make(aword.Announced, 8, 90)}, api.Write{At: m.Announce(2), Word: aword.Make(aword.Announced, 8, 95)}, api.Write{At: 0, Word: 10})
 				for _, y := range writes {
-					w := holds(t, m, o, x, turn{ahead, y})
+					w := holds(t, m, o, x, one(ahead, y))
 					for kind := api.MarkBegin; kind <= api.MarkEmpty; kind++ {
 						seen[kind] += marksOf(w, kind)
 					}
@@ -440,13 +447,19 @@ func TestFull(t *testing.T) { // 26.3: a Put is Full only behind having reclaime
 
 func TestSparesGoBack(t *testing.T) { // 26.4: what it did not need
 	m := grown(conf(2), trees[1], 15, 16)
-	// The root is turned when it has both slots: another one has made room.
-	for ahead := range 30 {
-		w := holds(t, m, api.Op{Kind: api.Put, Key: 15, Value: 9}, sweep.Lists{}, turn{ahead, api.Write{At: m.Shape(1), Word: layout.Pack(false, 3)}})
+	// The leaf has room when the fix would lock it: another one has made that, while this one took both slots.
+	version := api.Write{At: m.Version(1), Word: vword.Bump(v(1))}
+	back := 0
+	for ahead := range 25 {
+		w := holds(t, m, api.Op{Kind: api.Put, Key: 45, Value: 9}, sweep.Lists{}, turn{ahead, [2]api.Write{version, {At: m.Shape(1), Word: layout.Pack(false, 3)}}})
 		free, sound := arena.Free(w.m)
-		if !sound || len(free)+len(arena.Tree(w.m)) != 3 && len(arena.Tree(w.m)) != 1 {
+		if got := len(free) + len(arena.Tree(w.m)); !sound || got != 3 {
 			t.Errorf("ahead of %d: free are %v, the tree is %v", ahead, free, arena.Tree(w.m))
 		}
+		back = max(back, marksOf(w, api.MarkFree))
+	}
+	if back != 2 {
+		t.Error("at most so many went back:", back)
 	}
 }
 
