@@ -93,12 +93,27 @@ func TestEvent(t *testing.T) { // 38.2, 38.4
 		{Kind: api.Respond, Thread: -1, Id: -2, At: -3, Op: api.Op{Kind: api.Scan, Key: 1, High: 9, Most: 3}, Result: api.Result{Kind: api.Listed, Pairs: []api.Pair{{Key: 5, Value: 6}}}},
 		{Kind: api.Invoke, Id: 1, Op: api.Op{Kind: api.Get, Value: 1}}, {Kind: api.Respond, Id: 1}, {Kind: 3, Id: 1, Op: put, Result: api.Result{Kind: api.Full}}, {},
 	}
-	want := []string{"invoke 7 thread 1 at 0 put 5 50", "respond 7 thread 1 at 14 put 5 50 found 3", "respond -2 thread -1 at -3 scan 1 9 3 listed 5=6", "invoke 1 thread 0 at 0", "respond 1 thread 0 at 0 none", "none 1 thread 0 at 0 put 5 50", "none 0 thread 0 at 0"}
+	want := []string{"invoke 7 thread 1 at 0 put 5 50", "respond 7 thread 1 at 14 put 5 50 found 3", "respond -2 thread -1 at -3 scan 1 9 3 listed 5=6", "invoke 1 thread 0 at 0 none", "respond 1 thread 0 at 0 none none", "none 1 thread 0 at 0 put 5 50", "none 0 thread 0 at 0 none"}
 	for i, e := range events {
 		says(t, "an event", dump.Event(e), want[i])
 	}
 	says(t, "events", dump.Events(events...), strings.Join(want, "\n")+"\n")
 	says(t, "no events", dump.Events(), "")
+}
+
+func TestEventWithoutWords(t *testing.T) { // 38.2: where the operation has no words, none stands
+	full := api.Result{Kind: api.Full}
+	wrong := []api.Op{
+		{}, {Key: 5}, {Kind: -1, Key: 5}, {Kind: 5, Key: 5}, {Kind: math.MinInt}, {Kind: math.MaxInt},
+		{Kind: api.Get, Value: 1}, {Kind: api.Get, Most: 1}, {Kind: api.Put, High: 1}, {Kind: api.Delete, Value: 1},
+		{Kind: api.Scan, High: 9}, {Kind: api.Scan, High: 9, Most: -1}, {Kind: api.Scan, High: 9, Most: api.MaxPairs + 1}, {Kind: api.Scan, Key: 1, High: 9, Most: 1, Value: 1},
+	}
+	for _, o := range wrong {
+		says(t, "an Invoke", dump.Event(api.Event{Kind: api.Invoke, Id: 2, Thread: 1, At: 7, Op: o, Result: full}), "invoke 2 thread 1 at 7 none")
+		says(t, "a Respond", dump.Event(api.Event{Kind: api.Respond, Id: 2, Thread: 1, At: 7, Op: o, Result: full}), "respond 2 thread 1 at 7 none full")
+		says(t, "no kind", dump.Event(api.Event{Kind: 3, Id: 2, Thread: 1, At: 7, Op: o, Result: full}), "none 2 thread 1 at 7 none")
+		says(t, "events", dump.Events(api.Event{Op: o}, api.Event{Kind: api.Respond, Op: o}), "none 0 thread 0 at 0 none\nrespond 0 thread 0 at 0 none none\n")
+	}
 }
 
 func TestMark(t *testing.T) { // 38.3
